@@ -3,6 +3,10 @@
 # 2 to the 64th: one more than the greatest number that is handed over.
 BEYOND = 18446744073709551616
 
+# The least product that looks like a prime by each of these is 318665857834031151167461
+# (Sorenson and Webster, 2015), far above 64 bits, so together they leave no doubt.
+WITNESSES = (2, 3, 5, 7, 11, 13, 17, 19, 23, 29, 31, 37)
+
 
 def whole_divisor(m):
     """The number that rests by m are taken by."""
@@ -37,6 +41,59 @@ def rest_of_power(a, e, divisor):
     return product
 
 
+def inverse_by(a, divisor):
+    """The number below a divisor above 0 whose product with a has the rest of 1 by it; None if there's none."""
+    # What makes this right: by the divisor, a * factor_before and a * factor always
+    # have the same rests as before and rest; so when before is 1, its factor is sought.
+    before = divisor
+    rest = a % divisor
+    factor_before = 0
+    factor = 1
+    while rest > 0:
+        times = before // rest
+        smaller = before - times * rest
+        factor_smaller = (factor_before - times * factor) % divisor
+        before = rest
+        factor_before = factor
+        rest = smaller
+        factor = factor_smaller
+    if before != 1:
+        return None
+    return factor_before
+
+
+def looks_prime(n, witness, odd, twos):
+    """Whether the odd number n, where n - 1 is odd times 2 to the power twos, passes as a prime by the witness."""
+    rest = rest_of_power(witness, odd, n)
+    if rest == 1:
+        return True
+    # By a prime only 1 and n - 1 have the square 1, so n - 1 must come ahead of the first 1.
+    for step in range(twos):
+        if rest == n - 1:
+            return True
+        rest = rest * rest % n
+    return False
+
+
+def is_prime(n):
+    """Whether n is a prime."""
+    if n < 2:
+        return False
+    # A witness says nothing of its own multiples, itself among them.
+    for witness in WITNESSES:
+        if n % witness == 0:
+            return n == witness
+    odd = n - 1
+    twos = 0
+    while odd % 2 == 0:
+        odd = odd // 2
+        twos = twos + 1
+    for witness in WITNESSES:
+        if not looks_prime(n, witness, odd, twos):
+            return False
+    return True
+
+
 def common(a, b):
     """The greatest common divisor of a and b; 0 if both are 0."""
     return [greatest_divisor(a, b)]
@@ -45,3 +102,18 @@ def common(a, b):
 def power(a, e, m):
     """The rest of a to the power e by m."""
     return [rest_of_power(a, e, whole_divisor(m))]
+
+
+def inverse(a, m):
+    """0, then the number below m whose product with a has the rest of 1 by m; -1 if there's none."""
+    found = inverse_by(a, whole_divisor(m))
+    if found is None:
+        return [-1]
+    return [0, found]
+
+
+def prime(n):
+    """1 if n is a prime, else 0."""
+    if is_prime(n):
+        return [1]
+    return [0]

@@ -12,6 +12,8 @@ PACKAGE = pathlib.Path(numbers.__file__).parent
 PARAMETERS = {
     "common": ["a", "b"],
     "power": ["a", "e", "m"],
+    "inverse": ["a", "m"],
+    "prime": ["n"],
 }
 
 
