@@ -7,6 +7,9 @@ BEYOND = 18446744073709551616
 # (Sorenson and Webster, 2015), far above 64 bits, so together they leave no doubt.
 WITNESSES = (2, 3, 5, 7, 11, 13, 17, 19, 23, 29, 31, 37)
 
+# To look for a common divisor takes as long as many steps of a walk, so this many share one look.
+STRIDE = 128
+
 
 def whole_divisor(m):
     """The number that rests by m are taken by."""
@@ -94,6 +97,75 @@ def is_prime(n):
     return True
 
 
+def prime_above(n):
+    """The least prime above n that is below 2 to the 64th; None if there's none."""
+    for number in range(n + 1, BEYOND):
+        if is_prime(number):
+            return number
+    return None
+
+
+def first_divisor(n, shift, place, mark):
+    """The first divisor above 1 that n has in common with a difference to the mark, walking on from place."""
+    divisor = 1
+    while divisor == 1:
+        place = (place * place + shift) % n
+        divisor = greatest_divisor((place - mark) % n, n)
+    return divisor
+
+
+def divisor_by_walk(n, shift):
+    """A divisor of n above 1, often less than n, that a walk tells: from 2 on, each place squared plus the shift."""
+    # By a prime in n the walk goes round sooner than by n itself: then the prime divides
+    # the difference of two places. Marks further and further on come to lie in that round.
+    place = 2
+    length = 1
+    while True:
+        mark = place
+        walked = 0
+        while walked < length:
+            start = place
+            steps = min(STRIDE, length - walked)
+            product = 1
+            for step in range(steps):
+                place = (place * place + shift) % n
+                product = product * (place - mark) % n
+            # The product may hold all of n where a single difference doesn't, so these are looked at anew.
+            if greatest_divisor(product, n) > 1:
+                return first_divisor(n, shift, start, mark)
+            walked = walked + steps
+        length = length * 2
+
+
+def proper_divisor(n):
+    """A divisor above 1 and below n of a number n that is neither 0 nor 1 nor a prime."""
+    for witness in WITNESSES:
+        if n % witness == 0:
+            return witness
+    # This ends: with the shift p - 2, p being a prime in n, the first step is from 2 to p + 2, which tells p.
+    shift = 1
+    divisor = divisor_by_walk(n, shift)
+    while divisor == n:
+        shift = shift + 1
+        divisor = divisor_by_walk(n, shift)
+    return divisor
+
+
+def prime_powers(n):
+    """The primes that divide a number n above 0, rising, each in a pair with how often it does."""
+    often = {}
+    left = [n]
+    while len(left) > 0:
+        part = left.pop()
+        if is_prime(part):
+            often[part] = often.get(part, 0) + 1
+        elif part > 1:
+            divisor = proper_divisor(part)
+            left.append(divisor)
+            left.append(part // divisor)
+    return [(p, often[p]) for p in sorted(often)]
+
+
 def common(a, b):
     """The greatest common divisor of a and b; 0 if both are 0."""
     return [greatest_divisor(a, b)]
@@ -117,3 +189,22 @@ def prime(n):
     if is_prime(n):
         return [1]
     return [0]
+
+
+def next_of(n):
+    """The least prime above n; 0 if none is below 2 to the 64th."""
+    found = prime_above(n)
+    if found is None:
+        return [0]
+    return [found]
+
+
+def parts(n):
+    """How many primes divide n; then these, rising, each followed by how often it does. -1 for 0."""
+    if n == 0:
+        return [-1]
+    pairs = prime_powers(n)
+    told = [len(pairs)]
+    for pair in pairs:
+        told.extend(pair)
+    return told

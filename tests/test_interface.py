@@ -14,6 +14,8 @@ PARAMETERS = {
     "power": ["a", "e", "m"],
     "inverse": ["a", "m"],
     "prime": ["n"],
+    "next_of": ["n"],
+    "parts": ["n"],
 }
 
 

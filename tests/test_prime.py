@@ -2,24 +2,8 @@
 
 import math
 
-from checks import BEYOND, GREATEST, CallTest, some_numbers
+from checks import BEYOND, GREATEST, MIDDLE_PRIMES, TOP_GAPS, CallTest, primes_below, some_numbers
 from made64.numbers import prime
-
-# How far below 2 to the 64th the ten greatest primes of 64 bits lie.
-TOP_GAPS = (59, 83, 95, 179, 189, 257, 279, 323, 353, 363)
-
-# The four greatest primes of 32 bits, and the least above them.
-MIDDLE_PRIMES = (4294967197, 4294967231, 4294967279, 4294967291, 4294967311)
-
-
-def primes_below(limit):
-    """Told by striking out multiples: True at each prime."""
-    marks = [False, False] + [True] * (limit - 2)
-    for number in range(2, math.isqrt(limit) + 1):
-        if marks[number]:
-            for multiple in range(number * number, limit, number):
-                marks[multiple] = False
-    return marks
 
 
 class PrimeTest(CallTest):
