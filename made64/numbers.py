@@ -166,6 +166,39 @@ def prime_powers(n):
     return [(p, often[p]) for p in sorted(often)]
 
 
+def count_coprimes(n):
+    """How many of the numbers from 1 to a number n above 0 have no divisor but 1 in common with n."""
+    count = n
+    for pair in prime_powers(n):
+        # Of each p numbers on end, p - 1 are no multiples of p, whatever other primes do.
+        count = count // pair[0] * (pair[0] - 1)
+    return count
+
+
+def power_is_above(x, k, n):
+    """Whether the k-th power of a number x above 1 is above n."""
+    product = 1
+    for step in range(k):
+        product = product * x
+        # A number above 1 gets above 64 bits in 64 steps at most, so a great k takes no longer.
+        if product > n:
+            return True
+    return False
+
+
+def whole_root(n, k):
+    """The greatest whole number whose k-th power is n at most, for n and k above 0."""
+    lower = 1
+    upper = n + 1
+    while upper - lower > 1:
+        middle = (lower + upper) // 2
+        if power_is_above(middle, k, n):
+            upper = middle
+        else:
+            lower = middle
+    return lower
+
+
 def common(a, b):
     """The greatest common divisor of a and b; 0 if both are 0."""
     return [greatest_divisor(a, b)]
@@ -208,3 +241,17 @@ def parts(n):
     for pair in pairs:
         told.extend(pair)
     return told
+
+
+def coprimes(n):
+    """How many of the numbers from 1 to n have no divisor but 1 in common with n; 0 for 0."""
+    if n == 0:
+        return [0]
+    return [count_coprimes(n)]
+
+
+def root(n, k):
+    """The greatest whole number whose k-th power is n at most; 0 if k is 0."""
+    if n == 0 or k == 0:
+        return [0]
+    return [whole_root(n, k)]

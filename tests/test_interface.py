@@ -16,6 +16,8 @@ PARAMETERS = {
     "prime": ["n"],
     "next_of": ["n"],
     "parts": ["n"],
+    "coprimes": ["n"],
+    "root": ["n", "k"],
 }
 
 

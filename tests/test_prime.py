@@ -75,7 +75,8 @@ class PrimeTest(CallTest):
         self.check_product(149491, 747451, 34233211)
 
     def test_products_that_pass_by_other_well_chosen_numbers(self):
-        # By 2, 7, 61; by 2, 13, 23, 1662803; by 2, close to 2 to the 64th; by seven or eight of the first twelve primes.
+        # By 2, 7, 61; by 2, 13, 23, 1662803; by 2, close to 2 to the 64th;
+        # by seven or eight of the first twelve primes.
         self.check_product(48781, 97561)
         self.check_product(611557, 1834669)
         self.check_product(1920767767, 9603838831)
