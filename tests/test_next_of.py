@@ -5,7 +5,7 @@ from made64.numbers import next_of
 
 GREATEST_PRIME = 18446744073709551557
 
-# Primes, each with how far above it the next one lies: no gap before it is as wide.
+# Primes, each with how far above it the next one lies: uncommonly far for its size.
 WIDE_GAPS = (
     (113, 14),
     (1327, 34),
