@@ -199,6 +199,66 @@ def whole_root(n, k):
     return lower
 
 
+def sign_by(a, n):
+    """What jacobi tells of a by an odd number n: 1, 0 or -1."""
+    sign = 1
+    upper = a % n
+    lower = n
+    while upper > 0:
+        # 2 tells -1 by just those odd numbers that leave 3 or 5 by 8.
+        while upper % 2 == 0:
+            upper = upper // 2
+            if lower % 8 == 3 or lower % 8 == 5:
+                sign = -sign
+        # Two odd numbers tell the same of one another, but where both leave 3 by 4.
+        if upper % 4 == 3 and lower % 4 == 3:
+            sign = -sign
+        rest = lower % upper
+        lower = upper
+        upper = rest
+    # What is left divides both a and n.
+    if lower > 1:
+        return 0
+    return sign
+
+
+def least_without_root(p):
+    """The least number that has the rest of no square by an odd prime p."""
+    number = 2
+    while sign_by(number, p) != -1:
+        number = number + 1
+    return number
+
+
+def some_root_by(a, p):
+    """A number whose square has the rest of a by an odd prime p, which doesn't divide a, where there is one."""
+    other = least_without_root(p)
+    half = (p - 1) // 2
+    turns = 0
+    # By p, a to the power half times other to the power turns always has the rest 1. With both halved
+    # its square is 1, so it is 1 or p - 1; and other to the power (p - 1) // 2, which is p - 1, mends that.
+    while half % 2 == 0:
+        half = half // 2
+        turns = turns // 2
+        if rest_of_power(a, half, p) * rest_of_power(other, turns, p) % p != 1:
+            turns = turns + (p - 1) // 2
+    # Once half is odd, one a more makes both powers even (turns is so all along): half of each is the root.
+    return rest_of_power(a, (half + 1) // 2, p) * rest_of_power(other, turns // 2, p) % p
+
+
+def least_root_by(a, p):
+    """The least number whose square has the rest of a by a prime p; None if there's none."""
+    rest = a % p
+    # By 2 each number is its own square.
+    if rest == 0 or p == 2:
+        return rest
+    if sign_by(rest, p) == -1:
+        return None
+    found = some_root_by(rest, p)
+    # By a prime there are just two, and they add up to it.
+    return min(found, p - found)
+
+
 def common(a, b):
     """The greatest common divisor of a and b; 0 if both are 0."""
     return [greatest_divisor(a, b)]
@@ -255,3 +315,23 @@ def root(n, k):
     if n == 0 or k == 0:
         return [0]
     return [whole_root(n, k)]
+
+
+def square(a, p):
+    """0, then the least number whose square has the rest of a by a prime p; -1 if there's none. -2 if p is no prime."""
+    if not is_prime(p):
+        return [-2]
+    found = least_root_by(a, p)
+    if found is None:
+        return [-1]
+    return [0, found]
+
+
+def jacobi(a, n):
+    """Over the primes of an odd n, the product of 0 where one divides a, 1 where a is a square by it, else -1.
+
+    -2 if n is even.
+    """
+    if n % 2 == 0:
+        return [-2]
+    return [sign_by(a, n)]

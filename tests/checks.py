@@ -14,6 +14,9 @@ TOP_GAPS = (59, 83, 95, 179, 189, 257, 279, 323, 353, 363)
 # The four greatest primes of 32 bits, and the least above them.
 MIDDLE_PRIMES = (4294967197, 4294967231, 4294967279, 4294967291, 4294967311)
 
+# Primes too great to try each number below them.
+GREAT_PRIMES = MIDDLE_PRIMES + (2305843009213693951, 9223372036854775783) + tuple(BEYOND - gap for gap in TOP_GAPS)
+
 
 def primes_below(limit):
     """Told by striking out multiples: True at each prime."""

@@ -18,6 +18,8 @@ PARAMETERS = {
     "parts": ["n"],
     "coprimes": ["n"],
     "root": ["n", "k"],
+    "square": ["a", "p"],
+    "jacobi": ["a", "n"],
 }
 
 
