@@ -259,6 +259,41 @@ def least_root_by(a, p):
     return min(found, p - found)
 
 
+def order_by(a, divisor):
+    """The least e above 0 for which a to the power e has the rest of 1 by the divisor; 0 if there's none."""
+    if greatest_divisor(a, divisor) != 1:
+        return 0
+    # With this power a has the rest of 1 (Euler's rule), so the least one divides it:
+    # what is left when no prime can be taken away any more.
+    e = count_coprimes(divisor)
+    for pair in prime_powers(e):
+        for step in range(pair[1]):
+            if rest_of_power(a, e // pair[0], divisor) == 1:
+                e = e // pair[0]
+    return e
+
+
+def rests_agree(r, divisors):
+    """Whether some number has, for each i, the rest by divisors[i] that r[i] has."""
+    # There is one for all just if there is one for each two, and so without ever
+    # counting with their common multiple, which may be far above 64 bits.
+    for i in range(len(r)):
+        for j in range(i):
+            if (r[i] - r[j]) % greatest_divisor(divisors[i], divisors[j]) != 0:
+                return False
+    return True
+
+
+def joined_rest(x, multiple, rest, divisor):
+    """The number from x on, by steps of the multiple, that first has the rest by the divisor, where one does."""
+    shared = greatest_divisor(multiple, divisor)
+    part = divisor // shared
+    # Since one does, what is shared divides the gap too; without it the multiple has an inverse.
+    gap = (rest - x) // shared
+    steps = gap * inverse_by(multiple // shared, part) % part
+    return x + multiple * steps
+
+
 def common(a, b):
     """The greatest common divisor of a and b; 0 if both are 0."""
     return [greatest_divisor(a, b)]
@@ -335,3 +370,26 @@ def jacobi(a, n):
     if n % 2 == 0:
         return [-2]
     return [sign_by(a, n)]
+
+
+def order(a, m):
+    """The least e above 0 for which a to the power e has the rest of 1 by m; 0 if there's none."""
+    return [order_by(a, whole_divisor(m))]
+
+
+def rests(r, m):
+    """0, then the least x that has, for each i, the rest by m[i] that r[i] has, and the least common multiple of m.
+
+    -1 if there's no x; else -2 if the multiple is above 2 to the 64th, which itself is told as 0.
+    """
+    divisors = [whole_divisor(number) for number in m]
+    if not rests_agree(r, divisors):
+        return [-1]
+    x = 0
+    multiple = 1
+    for i in range(len(r)):
+        x = joined_rest(x, multiple, r[i], divisors[i])
+        multiple = multiple // greatest_divisor(multiple, divisors[i]) * divisors[i]
+        if multiple > BEYOND:
+            return [-2]
+    return [0, x, multiple % BEYOND]

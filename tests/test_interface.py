@@ -20,6 +20,8 @@ PARAMETERS = {
     "root": ["n", "k"],
     "square": ["a", "p"],
     "jacobi": ["a", "n"],
+    "order": ["a", "m"],
+    "rests": ["r", "m"],
 }
 
 
